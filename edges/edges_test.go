@@ -7,6 +7,7 @@ import (
 	"testing"
 
 	"letterbeck/api"
+	"letterbeck/internal/sample"
 )
 
 // bordersByDefinition compares every proper prefix with the suffix of its length.
@@ -97,21 +98,6 @@ func TestAllWrittenOut(t *testing.T) {
 	}
 }
 
-// eachString calls visit with every string of at most n bytes over the alphabet.
-func eachString(alphabet string, n int, visit func(string)) {
-	var extend func(s string)
-	extend = func(s string) {
-		visit(s)
-		if len(s) == n {
-			return
-		}
-		for i := range len(alphabet) {
-			extend(s + alphabet[i:i+1])
-		}
-	}
-	extend("")
-}
-
 func compareWithDefinition(t *testing.T, s string) {
 	t.Helper()
 	longest, err := Of(s)
@@ -121,18 +107,16 @@ func compareWithDefinition(t *testing.T, s string) {
 }
 
 func TestAllShortStrings(t *testing.T) {
-	check := func(s string) { compareWithDefinition(t, s) }
-	eachString("ab", 11, check)
-	eachString("\x00z\xff", 7, check)
+	for _, s := range slices.Concat(sample.Strings("ab", 11), sample.Strings("\x00z\xff", 7)) {
+		compareWithDefinition(t, s)
+	}
 }
 
 func TestStringsOfMaxLen(t *testing.T) {
-	eachString("ab", 7, func(s string) {
-		if s != "" {
-			compareWithDefinition(t, strings.Repeat(s, api.MaxLen)[:api.MaxLen])
-			compareWithDefinition(t, strings.Repeat(s, api.MaxLen)[:api.MaxLen-1]+"b")
-		}
-	})
+	for _, s := range sample.Strings("ab", 7)[1:] {
+		compareWithDefinition(t, strings.Repeat(s, api.MaxLen)[:api.MaxLen])
+		compareWithDefinition(t, strings.Repeat(s, api.MaxLen)[:api.MaxLen-1]+"b")
+	}
 }
 
 func TestTooLong(t *testing.T) {

@@ -7,6 +7,7 @@ import (
 	"testing"
 
 	"letterbeck/api"
+	"letterbeck/internal/sample"
 )
 
 // allByDefinition tests at every position whether the text from there on begins with the word.
@@ -105,63 +106,40 @@ func TestWrittenOut(t *testing.T) {
 	}
 }
 
-// eachString calls visit with every string of at most n bytes over the alphabet.
-func eachString(alphabet string, n int, visit func(string)) {
-	var extendBy func(s string)
-	extendBy = func(s string) {
-		visit(s)
-		if len(s) == n {
-			return
-		}
-		for i := range len(alphabet) {
-			extendBy(s + alphabet[i:i+1])
-		}
-	}
-	extendBy("")
-}
-
 func compareWithDefinition(t *testing.T, text, word string) {
 	t.Helper()
 	compareAll(t, text, word, allByDefinition(text, word))
 	compareApart(t, text, word, apartByDefinition(text, word))
 }
 
-// eachPair calls visit with every pair of a text and a nonempty word over the alphabet.
-func eachPair(alphabet string, textLen, wordLen int, visit func(text, word string)) {
-	eachString(alphabet, wordLen, func(word string) {
-		if word != "" {
-			eachString(alphabet, textLen, func(text string) { visit(text, word) })
-		}
-	})
-}
-
 func TestAllShortStrings(t *testing.T) {
-	check := func(text, word string) { compareWithDefinition(t, text, word) }
-	eachPair("ab", 10, 6, check)
-	eachPair("\x00z\xff", 6, 4, check)
+	for text, word := range sample.Pairs(sample.Strings("ab", 10), sample.Strings("ab", 6)[1:]) {
+		compareWithDefinition(t, text, word)
+	}
+	bytes := "\x00z\xff"
+	for text, word := range sample.Pairs(sample.Strings(bytes, 6), sample.Strings(bytes, 4)[1:]) {
+		compareWithDefinition(t, text, word)
+	}
 }
 
 func TestTextsOfMaxLen(t *testing.T) {
-	eachPair("ab", 5, 7, func(s, word string) {
-		if s != "" {
-			text := strings.Repeat(s, api.MaxLen)
-			compareWithDefinition(t, text[:api.MaxLen], word)
-			compareWithDefinition(t, text[:api.MaxLen-1]+"b", word)
-		}
-	})
+	for s, word := range sample.Pairs(sample.Strings("ab", 5)[1:], sample.Strings("ab", 7)[1:]) {
+		text := strings.Repeat(s, api.MaxLen)
+		compareWithDefinition(t, text[:api.MaxLen], word)
+		compareWithDefinition(t, text[:api.MaxLen-1]+"b", word)
+	}
 }
 
 // Long words with many borders, in texts that leave them late.
 func TestLongWords(t *testing.T) {
-	eachPair("ab", 4, 4, func(s, u string) {
-		if s != "" {
-			text := (strings.Repeat(s, 4) + u + strings.Repeat(s, api.MaxLen))[:api.MaxLen]
-			for n := 8; n <= api.MaxLen; n++ {
-				compareWithDefinition(t, text, strings.Repeat(s, n)[:n])
-				compareWithDefinition(t, text, text[api.MaxLen-n:])
-			}
+	short := sample.Strings("ab", 4)[1:]
+	for s, u := range sample.Pairs(short, short) {
+		text := (strings.Repeat(s, 4) + u + strings.Repeat(s, api.MaxLen))[:api.MaxLen]
+		for n := 8; n <= api.MaxLen; n++ {
+			compareWithDefinition(t, text, strings.Repeat(s, n)[:n])
+			compareWithDefinition(t, text, text[api.MaxLen-n:])
 		}
-	})
+	}
 }
 
 func TestErrors(t *testing.T) {

@@ -8,6 +8,7 @@ import (
 
 	"letterbeck/api"
 	"letterbeck/edges"
+	"letterbeck/internal/sample"
 )
 
 // commonByDefinition counts the equal first bytes of each suffix and s one by one.
@@ -93,21 +94,6 @@ func TestEdgesWrittenOut(t *testing.T) {
 	}
 }
 
-// eachString calls visit with every string of at most n bytes over the alphabet.
-func eachString(alphabet string, n int, visit func(string)) {
-	var extendBy func(s string)
-	extendBy = func(s string) {
-		visit(s)
-		if len(s) == n {
-			return
-		}
-		for i := range len(alphabet) {
-			extendBy(s + alphabet[i:i+1])
-		}
-	}
-	extendBy("")
-}
-
 func compareWithDefinition(t *testing.T, s string) {
 	t.Helper()
 	common, err := Of(s)
@@ -117,32 +103,30 @@ func compareWithDefinition(t *testing.T, s string) {
 }
 
 func TestAllShortStrings(t *testing.T) {
-	check := func(s string) { compareWithDefinition(t, s) }
-	eachString("ab", 12, check)
-	eachString("\x00z\xff", 8, check)
+	for _, s := range slices.Concat(sample.Strings("ab", 12), sample.Strings("\x00z\xff", 8)) {
+		compareWithDefinition(t, s)
+	}
 }
 
 func TestStringsOfMaxLen(t *testing.T) {
-	eachString("ab", 8, func(s string) {
-		if s != "" {
-			long := strings.Repeat(s, api.MaxLen)
-			compareWithDefinition(t, long[:api.MaxLen])
-			compareWithDefinition(t, long[:api.MaxLen-1]+"b")
-			compareWithDefinition(t, long[:api.MaxLen/2]+"c"+long[:api.MaxLen/2-1])
-		}
-	})
+	for _, s := range sample.Strings("ab", 8)[1:] {
+		long := strings.Repeat(s, api.MaxLen)
+		compareWithDefinition(t, long[:api.MaxLen])
+		compareWithDefinition(t, long[:api.MaxLen-1]+"b")
+		compareWithDefinition(t, long[:api.MaxLen/2]+"c"+long[:api.MaxLen/2-1])
+	}
 }
 
 // The nonempty proper suffixes that are prefixes are the nonempty borders.
 func TestEdgesAreTheBorders(t *testing.T) {
-	eachString("ab", 12, func(s string) {
+	for _, s := range sample.Strings("ab", 12) {
 		want, err := edges.All(s)
 		if err != nil {
 			t.Fatalf("edges.All(%q): error %v", s, err)
 		}
 		got, err := Edges(s)
 		compare(t, "Edges", s, got, err, want)
-	})
+	}
 }
 
 func TestTooLong(t *testing.T) {
