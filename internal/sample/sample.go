@@ -1,21 +1,34 @@
-// Package sample lists strings for the tests of the other packages.
+// Package sample lists strings, and lists of them, for the tests of the other packages.
 package sample
 
-import "iter"
+import (
+	"iter"
+	"slices"
+)
+
+// Lists returns all lists of at most n of the elements, which may occur repeatedly,
+// short lists first, so that the first one is the empty list.
+func Lists[E any](elements []E, n int) [][]E {
+	all := [][]E{nil}
+	begin := 0
+	for range n {
+		end := len(all)
+		for _, list := range all[begin:end] {
+			for _, e := range elements {
+				all = append(all, slices.Concat(list, []E{e}))
+			}
+		}
+		begin = end
+	}
+	return all
+}
 
 // Strings returns all strings of at most n bytes over the bytes of the alphabet, short
 // ones first, so that the first one is the empty string.
 func Strings(alphabet string, n int) []string {
-	all := []string{""}
-	begin := 0
-	for range n {
-		end := len(all)
-		for _, s := range all[begin:end] {
-			for i := range len(alphabet) {
-				all = append(all, s+alphabet[i:i+1])
-			}
-		}
-		begin = end
+	var all []string
+	for _, bytes := range Lists([]byte(alphabet), n) {
+		all = append(all, string(bytes))
 	}
 	return all
 }

@@ -5,6 +5,40 @@ import (
 	"testing"
 )
 
+func TestLists(t *testing.T) {
+	for _, c := range []struct {
+		elements []string
+		n        int
+		want     [][]string
+	}{
+		{nil, 2, [][]string{{}}},
+		{[]string{"a", ""}, -1, [][]string{{}}},
+		{[]string{"a", ""}, 0, [][]string{{}}},
+		{[]string{"a", ""}, 1, [][]string{{}, {"a"}, {""}}},
+		{[]string{"a", ""}, 2, [][]string{{}, {"a"}, {""}, {"a", "a"}, {"a", ""}, {"", "a"}, {"", ""}}},
+	} {
+		if got := Lists(c.elements, c.n); !slices.EqualFunc(got, c.want, slices.Equal) {
+			t.Errorf("Lists(%q, %d) = %q, want %q", c.elements, c.n, got, c.want)
+		}
+	}
+	if got := len(Lists([]int{1, 2, 3}, 5)); got != 1+3+9+27+81+243 {
+		t.Errorf("%d lists of at most 5 of 3 elements", got)
+	}
+}
+
+// A test may change a list that it was given.
+func TestListsShareNoMemory(t *testing.T) {
+	got := Lists([]int{1, 2}, 3)
+	want := Lists([]int{1, 2}, 3)
+	for i, list := range got {
+		if !slices.Equal(list, want[i]) {
+			t.Errorf("list %d has become %v, want %v", i, list, want[i])
+		}
+		list = append(list, 0)
+		clear(list)
+	}
+}
+
 func TestStrings(t *testing.T) {
 	for _, c := range []struct {
 		alphabet string
