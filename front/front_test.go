@@ -74,18 +74,9 @@ func compareBoth(t *testing.T, s string, l []int) {
 	compareBack(t, l, s)
 }
 
-// rising returns all bytes in increasing order.
-func rising() string {
-	var all []byte
-	for b := range 256 {
-		all = append(all, byte(b))
-	}
-	return string(all)
-}
-
 // falling returns all bytes in decreasing order.
 func falling() string {
-	all := []byte(rising())
+	all := []byte(sample.Bytes())
 	slices.Reverse(all)
 	return string(all)
 }
@@ -175,7 +166,7 @@ func TestLeastAndGreatestNumbers(t *testing.T) {
 }
 
 func TestAllBytes(t *testing.T) {
-	up, down := rising(), falling()
+	up, down := sample.Bytes(), falling()
 	last := slices.Repeat([]int{255}, 256)
 	compareBoth(t, up, numbers(0, 256))
 	compareBoth(t, down, last)
@@ -190,7 +181,7 @@ func TestAllBytes(t *testing.T) {
 func TestByteComesBack(t *testing.T) {
 	for b := range 256 {
 		sign := string([]byte{byte(b)})
-		for _, all := range []string{rising(), falling()} {
+		for _, all := range []string{sample.Bytes(), falling()} {
 			others := without(all, byte(b))
 			for _, n := range []int{1, 2, 100, 254, 255} {
 				s := sign + others[:n] + sign
@@ -220,7 +211,7 @@ func TestMaxRun(t *testing.T) {
 		{strings.Repeat("ba", n/2), slices.Concat([]int{98, 98}, slices.Repeat([]int{1}, n-2))},
 		{strings.Repeat(falling(), n/256+1)[:n], slices.Repeat([]int{255}, n)},
 		{strings.Repeat(falling(), n/256+1)[:n-1], slices.Repeat([]int{255}, n-1)},
-		{strings.Repeat(rising(), n/256+1)[:n], append(numbers(0, 256), slices.Repeat([]int{255}, n-256)...)},
+		{strings.Repeat(sample.Bytes(), n/256+1)[:n], append(numbers(0, 256), slices.Repeat([]int{255}, n-256)...)},
 	} {
 		compareBoth(t, c.s, c.l)
 	}
@@ -262,7 +253,7 @@ func TestAllShortLists(t *testing.T) {
 // Each number is tried while the list is in increasing order, in decreasing order, and
 // after some moves.
 func TestEachNumber(t *testing.T) {
-	for _, before := range []string{"", rising(), falling(), "hello", "\xff\x00\xfe", "日本"} {
+	for _, before := range []string{"", sample.Bytes(), falling(), "hello", "\xff\x00\xfe", "日本"} {
 		for number := range 256 {
 			l := append(thereByDefinition(before), number)
 			s, err := Back(l)
@@ -281,7 +272,7 @@ func TestThereTooLong(t *testing.T) {
 		strings.Repeat("a", api.MaxRun+1),
 		strings.Repeat("a", api.MaxRun) + "b",
 		strings.Repeat("ab", api.MaxRun/2) + "a",
-		strings.Repeat(rising(), 4),
+		strings.Repeat(sample.Bytes(), 4),
 		strings.Repeat("é", api.MaxRun/2+1), // fewer runes than MaxRun, but more bytes
 		strings.Repeat("\x00", 100_000),
 	} {

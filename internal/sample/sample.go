@@ -33,6 +33,15 @@ func Strings(alphabet string, n int) []string {
 	return all
 }
 
+// Bytes returns all bytes in increasing order.
+func Bytes() string {
+	var all []byte
+	for b := range 256 {
+		all = append(all, byte(b))
+	}
+	return string(all)
+}
+
 // Pairs yields each element of first with each element of second.
 func Pairs(first, second []string) iter.Seq2[string, string] {
 	return func(yield func(a, b string) bool) {

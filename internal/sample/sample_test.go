@@ -60,6 +60,18 @@ func TestStrings(t *testing.T) {
 	}
 }
 
+func TestBytes(t *testing.T) {
+	all := Bytes()
+	if len(all) != 256 {
+		t.Fatalf("%d bytes, want 256", len(all))
+	}
+	for i := range len(all) {
+		if all[i] != byte(i) {
+			t.Errorf("byte %d is %d", i, all[i])
+		}
+	}
+}
+
 func TestPairs(t *testing.T) {
 	var got []string
 	for a, b := range Pairs([]string{"a", "b"}, []string{"x", "", "z"}) {
