@@ -274,14 +274,9 @@ func TestMaxRun(t *testing.T) {
 // Strings without a short period, over 2 to 256 different bytes.
 func TestIrregularStrings(t *testing.T) {
 	for signs := 2; signs <= 256; signs++ {
-		number := uint32(signs)
-		var s []byte
-		for range api.MaxRun {
-			number = number*1_664_525 + 1_013_904_223
-			s = append(s, byte(int(number>>16)%signs))
-		}
+		s := sample.Irregular(signs, api.MaxRun)
 		for _, n := range []int{api.MaxRun, api.MaxRun - 1, api.MaxRun / 2} {
-			compareBoth(t, string(s[:n]), writeByDefinition(string(s[:n])))
+			compareBoth(t, s[:n], writeByDefinition(s[:n]))
 		}
 	}
 }

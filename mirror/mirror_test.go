@@ -10,18 +10,12 @@ import (
 	"letterbeck/internal/sample"
 )
 
-func reversed(s string) string {
-	bytes := []byte(s)
-	slices.Reverse(bytes)
-	return string(bytes)
-}
-
 // countsByDefinition goes through all palindromes whose length has the remainder by 2.
 func countsByDefinition(s string, remainder int) []int {
 	counts := make([]int, len(s))
 	for begin := range len(s) {
 		for end := begin + 1; end <= len(s); end++ {
-			if (end-begin)%2 == remainder && s[begin:end] == reversed(s[begin:end]) {
+			if (end-begin)%2 == remainder && s[begin:end] == sample.Reversed(s[begin:end]) {
 				counts[(begin+end)/2]++
 			}
 		}
@@ -33,7 +27,7 @@ func countsByDefinition(s string, remainder int) []int {
 func longestByDefinition(s string) (at, long int) {
 	for n := len(s); n > 0; n-- {
 		for i := range len(s) - n + 1 {
-			if s[i:i+n] == reversed(s[i:i+n]) {
+			if s[i:i+n] == sample.Reversed(s[i:i+n]) {
 				return i, n
 			}
 		}
@@ -209,7 +203,7 @@ func TestStringsOfMaxLen(t *testing.T) {
 func TestPalindromesInside(t *testing.T) {
 	around := "0123456789ABCDEFGHIJKLMNOPQRSTUVWXYZ"
 	for _, half := range sample.Strings("ab", 4)[1:] {
-		for _, inside := range []string{half + reversed(half), half + "m" + reversed(half)} {
+		for _, inside := range []string{half + sample.Reversed(half), half + "m" + sample.Reversed(half)} {
 			for before := range api.MaxLen - len(inside) + 1 {
 				after := api.MaxLen - len(inside) - before
 				s := around[:before] + inside + around[before:before+after]

@@ -102,12 +102,6 @@ func sequence(first, step, n int) []int {
 	return l
 }
 
-func reversed(s string) string {
-	bytes := []byte(s)
-	slices.Reverse(bytes)
-	return string(bytes)
-}
-
 func TestWrittenOut(t *testing.T) {
 	for _, c := range []struct {
 		s     string
@@ -170,7 +164,7 @@ func TestMaxLenWrittenOut(t *testing.T) {
 		count int
 	}{
 		{rising, sequence(0, 1, n), make([]int, n-1), n * (n + 1) / 2},
-		{reversed(rising), sequence(n-1, -1, n), make([]int, n-1), n * (n + 1) / 2},
+		{sample.Reversed(rising), sequence(n-1, -1, n), make([]int, n-1), n * (n + 1) / 2},
 		{strings.Repeat("a", n), sequence(n-1, -1, n), sequence(1, 1, n-1), n},
 		{strings.Repeat("a", n-1) + "b", sequence(0, 1, n), sequence(n-2, -1, n-1), 2*n - 1},
 		{"b" + strings.Repeat("a", n-1), sequence(n-1, -1, n), append(sequence(1, 1, n-2), 0), 2*n - 1},
@@ -213,7 +207,7 @@ func TestCountOfReversal(t *testing.T) {
 		if err != nil {
 			t.Fatalf("Count(%q): error %v, want none", s, err)
 		}
-		compareCount(t, reversed(s), want)
+		compareCount(t, sample.Reversed(s), want)
 	}
 }
 

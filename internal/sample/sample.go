@@ -1,4 +1,5 @@
-// Package sample lists strings, and lists of them, for the tests of the other packages.
+// Package sample lists and makes strings, and lists of them, for the tests of the other
+// packages.
 package sample
 
 import (
@@ -40,6 +41,25 @@ func Bytes() string {
 		all = append(all, byte(b))
 	}
 	return string(all)
+}
+
+// Irregular returns n bytes without a short period, at most signs different ones from
+// byte 0 on.
+func Irregular(signs, n int) string {
+	number := uint32(signs)
+	var s []byte
+	for range n {
+		number = number*1_664_525 + 1_013_904_223
+		s = append(s, byte(int(number>>16)%signs))
+	}
+	return string(s)
+}
+
+// Reversed returns the bytes of s from the last one to the first one.
+func Reversed(s string) string {
+	bytes := []byte(s)
+	slices.Reverse(bytes)
+	return string(bytes)
 }
 
 // Pairs yields each element of first with each element of second.

@@ -72,6 +72,36 @@ func TestBytes(t *testing.T) {
 	}
 }
 
+func TestIrregular(t *testing.T) {
+	for signs := 1; signs <= 256; signs++ {
+		s := Irregular(signs, 1_000)
+		if len(s) != 1_000 || Irregular(signs, 500) != s[:500] {
+			t.Errorf("%d bytes of %d different ones, or not the same ones again", len(s), signs)
+		}
+		if greatest := slices.Max([]byte(s)); int(greatest) >= signs {
+			t.Errorf("byte %d of %d different ones", greatest, signs)
+		}
+		for period := 1; signs > 1 && period <= 100; period++ {
+			if s[period:] == s[:len(s)-period] {
+				t.Errorf("%d different bytes have the period %d", signs, period)
+			}
+		}
+	}
+	if got := Irregular(2, 0); got != "" {
+		t.Errorf("%q has no bytes", got)
+	}
+}
+
+func TestReversed(t *testing.T) {
+	for s, want := range map[string]string{
+		"": "", "a": "a", "ab": "ba", "abc": "cba", "\x00a\xff": "\xffa\x00", "é": "\xa9\xc3",
+	} {
+		if got := Reversed(s); got != want {
+			t.Errorf("Reversed(%q) = %q, want %q", s, got, want)
+		}
+	}
+}
+
 func TestPairs(t *testing.T) {
 	var got []string
 	for a, b := range Pairs([]string{"a", "b"}, []string{"x", "", "z"}) {
