@@ -148,10 +148,6 @@ func compare(t *testing.T, a, b, want string) {
 	}
 }
 
-func repeated(sign byte, n int) string {
-	return strings.Repeat(string([]byte{sign}), n)
-}
-
 func TestFarWrittenOut(t *testing.T) {
 	for _, c := range []struct {
 		a, b string
@@ -174,9 +170,9 @@ func TestFarWrittenOut(t *testing.T) {
 		{"rosettacode", "raisethysword", 8},
 		{"\x00\xff", "\xff\x00", 2},
 		{strings.Repeat("ab", 12), strings.Repeat("ba", 12), 2},
-		{repeated('a', api.MaxLen), "", api.MaxLen},
-		{"", repeated('a', api.MaxLen), api.MaxLen},
-		{repeated('a', api.MaxLen), repeated('b', api.MaxLen), api.MaxLen},
+		{sample.Repeated('a', api.MaxLen), "", api.MaxLen},
+		{"", sample.Repeated('a', api.MaxLen), api.MaxLen},
+		{sample.Repeated('a', api.MaxLen), sample.Repeated('b', api.MaxLen), api.MaxLen},
 	} {
 		if got := farWithoutError(t, c.a, c.b); got != c.want {
 			t.Errorf("Far(%q, %q) = %d, want %d", c.a, c.b, got, c.want)
@@ -329,13 +325,13 @@ func TestEachByte(t *testing.T) {
 			if a == b {
 				want = "="
 			}
-			compare(t, repeated(byte(a), 1), repeated(byte(b), 1), want)
+			compare(t, sample.Repeated(byte(a), 1), sample.Repeated(byte(b), 1), want)
 		}
 		sign, other := byte(a), byte(a+1)
-		compare(t, "", repeated(sign, 1), "+")
-		compare(t, repeated(sign, 1), "", "-")
-		compare(t, repeated(sign, 2), string([]byte{sign, other, sign}), "=+=")
-		compare(t, string([]byte{sign, other, sign}), repeated(sign, 2), "=-=")
+		compare(t, "", sample.Repeated(sign, 1), "+")
+		compare(t, sample.Repeated(sign, 1), "", "-")
+		compare(t, sample.Repeated(sign, 2), string([]byte{sign, other, sign}), "=+=")
+		compare(t, string([]byte{sign, other, sign}), sample.Repeated(sign, 2), "=-=")
 	}
 }
 
@@ -344,9 +340,9 @@ func TestOneDifferenceAtEachPlace(t *testing.T) {
 	const all = "abcdefghijklmnopqrstuvwx"
 	for n := range api.MaxLen + 1 {
 		s := all[:n]
-		compare(t, s, s, repeated('=', n))
+		compare(t, s, s, sample.Repeated('=', n))
 		for i := range n {
-			before, behind := repeated('=', i), repeated('=', n-i-1)
+			before, behind := sample.Repeated('=', i), sample.Repeated('=', n-i-1)
 			for _, other := range []string{"\x00", "\xff", "A"} {
 				compare(t, s, s[:i]+other+s[i+1:], before+"!"+behind)
 				compare(t, s[:i]+other+s[i+1:], s, before+"!"+behind)
@@ -362,12 +358,12 @@ func TestOneByteRepeated(t *testing.T) {
 	for _, sign := range []byte{0, 'a', 0x80, 255} {
 		for m := range api.MaxLen + 1 {
 			for n := range api.MaxLen + 1 {
-				a, b := repeated(sign, m), repeated(sign, n)
-				same := repeated('=', min(m, n))
-				less, more := repeated('-', max(m-n, 0)), repeated('+', max(n-m, 0))
+				a, b := sample.Repeated(sign, m), sample.Repeated(sign, n)
+				same := sample.Repeated('=', min(m, n))
+				less, more := sample.Repeated('-', max(m-n, 0)), sample.Repeated('+', max(n-m, 0))
 				compare(t, a, b, less+more+same)
-				others := repeated('!', min(m, n))
-				compare(t, a, repeated(sign+1, n), others+more+less)
+				others := sample.Repeated('!', min(m, n))
+				compare(t, a, sample.Repeated(sign+1, n), others+more+less)
 				if max(m, n) <= api.MaxLen-2 {
 					compare(t, "x"+a+"y", "x"+b+"y", "="+less+more+same+"=")
 				}
@@ -376,41 +372,15 @@ func TestOneByteRepeated(t *testing.T) {
 	}
 }
 
-// Strings of MaxLen bytes and of nearly as many.
-func TestMaxLen(t *testing.T) {
-	const n = api.MaxLen
-	var all []string
-	for _, s := range sample.Strings("ab", 3)[1:] {
-		whole := strings.Repeat(s, n)[:n]
-		all = append(all, whole, whole[:n-1], whole[:n-1]+"\x00", "\xff"+whole[1:], whole[:n/2])
-	}
-	for a, b := range sample.Pairs(all, all) {
-		compare(t, a, b, bestByPrefixes(a, b))
-	}
-}
-
-func TestIrregularStrings(t *testing.T) {
-	const n = api.MaxLen
-	for _, signs := range []int{2, 3, 4, 5, 8, 16, 256} {
-		s := sample.Irregular(signs, 4*n)
-		for from := range 2 * n {
-			a, b := s[:n], s[from:from+n]
-			compare(t, a, b, bestByPrefixes(a, b))
-			compare(t, a[:from/2], b, bestByPrefixes(a[:from/2], b))
-			compare(t, b, a[:from/2], bestByPrefixes(b, a[:from/2]))
-		}
+func TestLongStrings(t *testing.T) {
+	for _, pair := range sample.LongPairs() {
+		compare(t, pair[0], pair[1], bestByPrefixes(pair[0], pair[1]))
 	}
 }
 
 func TestReversals(t *testing.T) {
 	for _, s := range slices.Concat(sample.Strings("ab", 12), sample.Strings("\x00z\xff", 7)) {
 		compare(t, s, sample.Reversed(s), bestByPrefixes(s, sample.Reversed(s)))
-	}
-	for signs := 2; signs <= 256; signs++ {
-		for _, n := range []int{api.MaxLen, api.MaxLen - 1} {
-			s := sample.Irregular(signs, n)
-			compare(t, s, sample.Reversed(s), bestByPrefixes(s, sample.Reversed(s)))
-		}
 	}
 }
 
@@ -419,7 +389,7 @@ func TestNothingInCommon(t *testing.T) {
 	a, b := strings.Repeat("abcb", api.MaxLen/4), strings.Repeat("\xff\x00z", api.MaxLen/3)
 	for m := range api.MaxLen + 1 {
 		for n := range api.MaxLen + 1 {
-			want := repeated('!', min(m, n)) + repeated('-', max(m-n, 0)) + repeated('+', max(n-m, 0))
+			want := sample.Repeated('!', min(m, n)) + sample.Repeated('-', max(m-n, 0)) + sample.Repeated('+', max(n-m, 0))
 			compare(t, a[:m], b[:n], want)
 			compare(t, b[:n], a[:m], strings.NewReplacer("-", "+", "+", "-").Replace(want))
 		}
@@ -445,18 +415,6 @@ func TestDistance(t *testing.T) {
 	}
 }
 
-func tooLongStrings() []string {
-	return []string{
-		repeated('a', api.MaxLen+1),
-		repeated('a', api.MaxLen) + "b",
-		strings.Repeat("ab", api.MaxLen),
-		strings.Repeat("é", api.MaxLen/2+1), // fewer runes than MaxLen, but more bytes
-		repeated(0, api.MaxLen+1),
-		repeated(255, api.MaxLen+1),
-		repeated(0, 100_000),
-	}
-}
-
 func compareTooLong(t *testing.T, a, b string) {
 	t.Helper()
 	far, err := Far(a, b)
@@ -470,12 +428,12 @@ func compareTooLong(t *testing.T, a, b string) {
 }
 
 func TestTooLong(t *testing.T) {
-	short := []string{"", "a", "ab", repeated('a', api.MaxLen)}
-	for long, s := range sample.Pairs(tooLongStrings(), short) {
+	short := []string{"", "a", "ab", sample.Repeated('a', api.MaxLen)}
+	for long, s := range sample.Pairs(sample.TooLong(), short) {
 		compareTooLong(t, long, s)
 		compareTooLong(t, s, long)
 	}
-	for a, b := range sample.Pairs(tooLongStrings(), tooLongStrings()) {
+	for a, b := range sample.Pairs(sample.TooLong(), sample.TooLong()) {
 		compareTooLong(t, a, b)
 	}
 }
@@ -483,7 +441,7 @@ func TestTooLong(t *testing.T) {
 // The arguments stay as they are, whether the calls succeed or not, and the same calls
 // have the same results.
 func TestArgumentsStay(t *testing.T) {
-	all := append(tooLongStrings(), "", "abab", "baba", "\x00\xff", repeated('a', api.MaxLen))
+	all := append(sample.TooLong(), "", "abab", "baba", "\x00\xff", sample.Repeated('a', api.MaxLen))
 	before := make([]string, len(all))
 	for i, s := range all {
 		before[i] = strings.Clone(s)

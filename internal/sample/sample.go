@@ -5,6 +5,9 @@ package sample
 import (
 	"iter"
 	"slices"
+	"strings"
+
+	"letterbeck/api"
 )
 
 // Lists returns all lists of at most n of the elements, which may occur repeatedly,
@@ -62,6 +65,24 @@ func Reversed(s string) string {
 	return string(bytes)
 }
 
+// Repeated returns a string of n bytes, each of which is sign.
+func Repeated(sign byte, n int) string {
+	return strings.Repeat(string([]byte{sign}), n)
+}
+
+// TooLong returns strings of more than MaxLen bytes.
+func TooLong() []string {
+	return []string{
+		Repeated('a', api.MaxLen+1),
+		Repeated('a', api.MaxLen) + "b",
+		strings.Repeat("ab", api.MaxLen),
+		strings.Repeat("é", api.MaxLen/2+1), // fewer runes than MaxLen, but more bytes
+		Repeated(0, api.MaxLen+1),
+		Repeated(255, api.MaxLen+1),
+		Repeated(0, 100_000),
+	}
+}
+
 // Pairs yields each element of first with each element of second.
 func Pairs(first, second []string) iter.Seq2[string, string] {
 	return func(yield func(a, b string) bool) {
@@ -73,4 +94,51 @@ func Pairs(first, second []string) iter.Seq2[string, string] {
 			}
 		}
 	}
+}
+
+// LongPairs returns pairs of strings of MaxLen bytes, and some of which one string is
+// shorter.
+func LongPairs() [][2]string {
+	return slices.Concat(periodicPairs(), irregularPairs(), reversedPairs())
+}
+
+// periodicPairs returns the pairs of strings that repeat a short one, and of some that
+// differ from these in one byte or are shorter.
+func periodicPairs() [][2]string {
+	const n = api.MaxLen
+	var all []string
+	for _, s := range Strings("ab", 3)[1:] {
+		whole := strings.Repeat(s, n)[:n]
+		all = append(all, whole, whole[:n-1], whole[:n-1]+"\x00", "\xff"+whole[1:], whole[:n/2])
+	}
+	var pairs [][2]string
+	for a, b := range Pairs(all, all) {
+		pairs = append(pairs, [2]string{a, b})
+	}
+	return pairs
+}
+
+func irregularPairs() [][2]string {
+	const n = api.MaxLen
+	var pairs [][2]string
+	for _, signs := range []int{2, 3, 4, 5, 8, 16, 256} {
+		s := Irregular(signs, 4*n)
+		for from := range 2 * n {
+			a, b := s[:n], s[from:from+n]
+			pairs = append(pairs, [2]string{a, b}, [2]string{a[:from/2], b}, [2]string{b, a[:from/2]})
+		}
+	}
+	return pairs
+}
+
+// reversedPairs returns irregular strings with their reversals.
+func reversedPairs() [][2]string {
+	var pairs [][2]string
+	for signs := 2; signs <= 256; signs++ {
+		for _, n := range []int{api.MaxLen, api.MaxLen - 1} {
+			s := Irregular(signs, n)
+			pairs = append(pairs, [2]string{s, Reversed(s)})
+		}
+	}
+	return pairs
 }

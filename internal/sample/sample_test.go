@@ -2,7 +2,10 @@ package sample
 
 import (
 	"slices"
+	"strings"
 	"testing"
+
+	"letterbeck/api"
 )
 
 func TestLists(t *testing.T) {
@@ -102,6 +105,31 @@ func TestReversed(t *testing.T) {
 	}
 }
 
+func TestRepeated(t *testing.T) {
+	for _, c := range []struct {
+		sign byte
+		n    int
+		want string
+	}{{'a', 0, ""}, {'a', 1, "a"}, {0, 2, "\x00\x00"}, {255, 3, "\xff\xff\xff"}} {
+		if got := Repeated(c.sign, c.n); got != c.want {
+			t.Errorf("Repeated(%d, %d) = %q, want %q", c.sign, c.n, got, c.want)
+		}
+	}
+}
+
+func TestTooLong(t *testing.T) {
+	all := TooLong()
+	for i, s := range all {
+		if len(s) <= api.MaxLen || slices.Contains(all[:i], s) {
+			t.Errorf("%d bytes, or not for the first time", len(s))
+		}
+	}
+	shortest := slices.MinFunc(all, func(s, t string) int { return len(s) - len(t) })
+	if len(shortest) != api.MaxLen+1 {
+		t.Errorf("at least %d bytes, want one more than MaxLen", len(shortest))
+	}
+}
+
 func TestPairs(t *testing.T) {
 	var got []string
 	for a, b := range Pairs([]string{"a", "b"}, []string{"x", "", "z"}) {
@@ -116,5 +144,34 @@ func TestPairs(t *testing.T) {
 	}
 	for a, b := range Pairs(nil, want) {
 		t.Errorf("Pairs yields %q, %q, want nothing", a, b)
+	}
+}
+
+func TestLongPairs(t *testing.T) {
+	all := LongPairs()
+	full := 0
+	for _, pair := range all {
+		if max(len(pair[0]), len(pair[1])) > api.MaxLen {
+			t.Errorf("%d and %d bytes", len(pair[0]), len(pair[1]))
+		}
+		if len(pair[0]) == api.MaxLen && len(pair[1]) == api.MaxLen {
+			full++
+		}
+	}
+	if full < 1_000 {
+		t.Errorf("%d of %d pairs of strings of MaxLen bytes", full, len(all))
+	}
+	irregular := Irregular(2, api.MaxLen)
+	for _, want := range [][2]string{
+		{Repeated('a', api.MaxLen), Repeated('b', api.MaxLen)},
+		{strings.Repeat("ab", api.MaxLen/2), strings.Repeat("ba", api.MaxLen/2)},
+		{Repeated('a', api.MaxLen/2), Repeated('a', api.MaxLen-1) + "\x00"},
+		{irregular, irregular},
+		{irregular, ""},
+		{irregular, Reversed(irregular)},
+	} {
+		if !slices.Contains(all, want) {
+			t.Errorf("LongPairs does not have %q", want)
+		}
 	}
 }
