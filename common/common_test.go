@@ -335,22 +335,11 @@ func TestAllShortStrings(t *testing.T) {
 	}
 }
 
-// permutations returns the strings of the bytes of s, which all differ, in each order.
-func permutations(s string) []string {
-	if s == "" {
-		return []string{""}
-	}
-	var all []string
-	for _, rest := range permutations(s[1:]) {
-		for i := range len(s) {
-			all = append(all, rest[:i]+s[:1]+rest[i:])
-		}
-	}
-	return all
-}
-
 func TestAllOrdersOfBytes(t *testing.T) {
-	all := permutations("abcde")
+	var all []string
+	for _, order := range sample.Orders([]byte("abcde")) {
+		all = append(all, string(order))
+	}
 	for a, b := range sample.Pairs(all, all) {
 		compare(t, a, b, bestOfAll(subsequences(a), subsequences(b)))
 	}

@@ -2,7 +2,6 @@ package front
 
 import (
 	"errors"
-	"math"
 	"slices"
 	"strings"
 	"testing"
@@ -284,10 +283,7 @@ func TestThereTooLong(t *testing.T) {
 }
 
 func outOfRange() []int {
-	return []int{
-		math.MinInt, math.MinInt + 1, math.MinInt32, -1 << 32, -256, -255, -1,
-		256, 257, 511, 512, api.MaxRun, 1 << 32, 1<<32 + 1, math.MaxInt - 1, math.MaxInt,
-	}
+	return append(sample.Outside(0, 255), 512, api.MaxRun)
 }
 
 // A number is wrong at the first, a middle, the last or the only place.

@@ -263,34 +263,16 @@ func TestNoWeights(t *testing.T) {
 	compareError(t, []int{1, -1}[:0], api.ErrNone)
 }
 
-func outOfRange() []int {
-	return []int{
-		math.MinInt, math.MinInt + 1, math.MinInt32, -1 << 32, -api.MaxWeight, -2, -1,
-		api.MaxWeight + 1, api.MaxWeight + 2, 2 * api.MaxWeight, 1 << 32, 1<<32 + 1, math.MaxInt - 1, math.MaxInt,
-	}
-}
-
-// A weight is wrong at the first, a middle, the last or the only place.
+// One weight is wrong, at any place, or several are.
 func TestOutOfRange(t *testing.T) {
-	for _, wrong := range outOfRange() {
-		for _, weights := range [][]int{
-			{wrong},
-			{wrong, 0},
-			{0, wrong},
-			{wrong, 1, api.MaxWeight},
-			{1, wrong, api.MaxWeight},
-			{1, api.MaxWeight, wrong},
-			{wrong, wrong, wrong},
-			{-1, wrong, api.MaxWeight + 1},
-		} {
-			compareError(t, weights, api.ErrRange)
-		}
-		for place := range api.MaxKinds {
-			weights := slices.Repeat([]int{1}, api.MaxKinds)
-			weights[place] = wrong
-			compareError(t, weights, api.ErrRange)
+	wrong := sample.Outside(0, api.MaxWeight)
+	for _, weights := range [][]int{{0}, {0, api.MaxWeight}, {1, 1, 1}, sample.Sequence(0, 1, api.MaxKinds)} {
+		for replaced := range sample.Replaced(weights, wrong) {
+			compareError(t, replaced, api.ErrRange)
 		}
 	}
+	compareError(t, []int{-1, 0, api.MaxWeight + 1}, api.ErrRange)
+	compareError(t, slices.Repeat([]int{-1}, api.MaxKinds), api.ErrRange)
 }
 
 // Weights that are out of range, wherever they stand, do not hide the error.
@@ -300,12 +282,8 @@ func TestTooManyWeights(t *testing.T) {
 		compareError(t, slices.Repeat([]int{1}, n), api.ErrFull)
 		compareError(t, slices.Repeat([]int{api.MaxWeight}, n), api.ErrFull)
 		compareError(t, slices.Repeat([]int{-1}, n), api.ErrFull)
-		for _, wrong := range outOfRange() {
-			for _, place := range []int{0, 1, n / 2, api.MaxKinds - 1, api.MaxKinds, n - 1} {
-				weights := make([]int, n)
-				weights[place] = wrong
-				compareError(t, weights, api.ErrFull)
-			}
+		for replaced := range sample.Replaced(make([]int, n), []int{-1, api.MaxWeight + 1}) {
+			compareError(t, replaced, api.ErrFull)
 		}
 	}
 }

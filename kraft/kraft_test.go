@@ -375,53 +375,28 @@ func TestCodesAreFree(t *testing.T) {
 	}
 }
 
-func lengthsOutOfRange() []int {
-	return []int{
-		math.MinInt, math.MinInt + 1, math.MinInt32, -1 << 32, -api.MaxBits, -2, -1, 0,
-		api.MaxBits + 1, api.MaxBits + 2, 2 * api.MaxBits, 63, 64, 65, 1 << 32, 1<<32 + 1, math.MaxInt - 1, math.MaxInt,
-	}
-}
-
-// A length is wrong at the first, a middle, the last or the only place, and the room of
-// the other ones may be exceeded.
+// One length is wrong, at any place, or several are, and the room of the other ones may be
+// exceeded.
 func TestLengthOutOfRange(t *testing.T) {
-	for _, wrong := range lengthsOutOfRange() {
-		for _, long := range [][]int{
-			{wrong},
-			{wrong, 1},
-			{1, wrong},
-			{wrong, 1, api.MaxBits},
-			{1, wrong, api.MaxBits},
-			{1, api.MaxBits, wrong},
-			{wrong, 1, 1, 1},
-			{1, 1, wrong, 1},
-			{1, 1, 1, wrong},
-			{wrong, wrong, wrong},
-			{0, wrong, api.MaxBits + 1},
-		} {
-			compareLengthError(t, long, api.ErrRange)
-		}
-		for place := range api.MaxKinds {
-			long := slices.Repeat([]int{5}, api.MaxKinds)
-			long[place] = wrong
-			compareLengthError(t, long, api.ErrRange)
+	wrong := append(sample.Outside(1, api.MaxBits), 63, 64, 65)
+	for _, long := range [][]int{{1}, {1, api.MaxBits}, {1, 1, 1, 1}, slices.Repeat([]int{5}, api.MaxKinds)} {
+		for replaced := range sample.Replaced(long, wrong) {
+			compareLengthError(t, replaced, api.ErrRange)
 		}
 	}
+	compareLengthError(t, []int{0, 1, api.MaxBits + 1}, api.ErrRange)
+	compareLengthError(t, make([]int, api.MaxKinds), api.ErrRange)
 }
 
 // Neither wrong lengths, wherever they stand, nor their room hide the error.
 func TestTooManyLengths(t *testing.T) {
-	for _, n := range []int{api.MaxKinds + 1, api.MaxKinds + 2, 2 * api.MaxKinds, 5000} {
+	for _, n := range []int{api.MaxKinds + 1, api.MaxKinds + 2, 2 * api.MaxKinds, 1000} {
 		compareLengthError(t, make([]int, n), api.ErrFull)
 		compareLengthError(t, slices.Repeat([]int{1}, n), api.ErrFull)
 		compareLengthError(t, slices.Repeat([]int{api.MaxBits}, n), api.ErrFull)
 		compareLengthError(t, slices.Repeat([]int{api.MaxBits + 1}, n), api.ErrFull)
-		for _, wrong := range lengthsOutOfRange() {
-			for _, place := range []int{0, 1, n / 2, api.MaxKinds - 1, api.MaxKinds, n - 1} {
-				long := slices.Repeat([]int{8}, n)
-				long[place] = wrong
-				compareLengthError(t, long, api.ErrFull)
-			}
+		for replaced := range sample.Replaced(slices.Repeat([]int{8}, n), []int{-1, 0, api.MaxBits + 1}) {
+			compareLengthError(t, replaced, api.ErrFull)
 		}
 	}
 }

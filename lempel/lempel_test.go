@@ -2,7 +2,6 @@ package lempel
 
 import (
 	"errors"
-	"math"
 	"slices"
 	"strings"
 	"testing"
@@ -135,13 +134,6 @@ const (
 // single returns n pieces of one byte each.
 func single(n int, sign byte) []api.Piece {
 	return slices.Repeat([]api.Piece{{Sign: sign}}, n)
-}
-
-func outOfRange() []int {
-	return []int{
-		math.MinInt, math.MinInt + 1, math.MinInt32, -1 << 32, -api.MaxRun, -2, -1,
-		api.MaxRun + 1, 1 << 32, 1<<32 + 1, math.MaxInt - 1, math.MaxInt,
-	}
 }
 
 func TestWrittenOut(t *testing.T) {
@@ -357,7 +349,7 @@ func TestReadOutOfRange(t *testing.T) {
 	for _, n := range []int{1, 2, 3, 10, api.MaxRun - 1, api.MaxRun} {
 		for _, place := range []int{0, n / 2, n - 1} {
 			l := single(n, 'a')
-			for _, back := range append(outOfRange(), place+1, place+2, api.MaxRun) {
+			for _, back := range append(sample.Outside(0, api.MaxRun), place+1, place+2, api.MaxRun) {
 				l[place].Back = back
 				compareReadError(t, l, api.ErrRange)
 			}
@@ -373,7 +365,7 @@ func TestReadOutOfRangeAtMaxRun(t *testing.T) {
 	full := append(chain(long, 'a'), api.Piece{Back: left - 1, Sign: 'a'})
 	most := append(single(n-2, 'a'), api.Piece{Back: 1, Sign: 'a'})
 	for _, ahead := range [][]api.Piece{full, most} {
-		for _, back := range append(outOfRange(), len(ahead)+1, len(ahead)+2) {
+		for _, back := range append(sample.Outside(0, api.MaxRun), len(ahead)+1, len(ahead)+2) {
 			wrong := api.Piece{Back: back, Sign: 'a'}
 			compareReadError(t, slices.Concat(ahead, []api.Piece{wrong}), api.ErrRange)
 			compareReadError(t, slices.Concat(chain(long, 'a'), []api.Piece{wrong, {Back: long}}), api.ErrRange)
@@ -405,7 +397,7 @@ func TestReadTooManyPieces(t *testing.T) {
 		compareReadError(t, single(n, 'a'), api.ErrFull)
 		compareReadError(t, chain(n, 'a'), api.ErrFull)
 		for _, place := range []int{0, 1, n / 2, api.MaxRun - 1, api.MaxRun, n - 1} {
-			for _, back := range append(outOfRange(), place+1, place+2) {
+			for _, back := range append(sample.Outside(0, api.MaxRun), place+1, place+2) {
 				l := single(n, 'a')
 				l[place].Back = back
 				compareReadError(t, l, api.ErrFull)

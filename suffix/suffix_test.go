@@ -93,15 +93,6 @@ func compareWithDefinition(t *testing.T, s string) {
 	compareCount(t, s, countByDefinition(s))
 }
 
-// sequence returns n numbers from first on, each larger than the one before by step.
-func sequence(first, step, n int) []int {
-	var l []int
-	for i := range n {
-		l = append(l, first+i*step)
-	}
-	return l
-}
-
 func TestWrittenOut(t *testing.T) {
 	for _, c := range []struct {
 		s     string
@@ -163,15 +154,15 @@ func TestMaxLenWrittenOut(t *testing.T) {
 		alike []int
 		count int
 	}{
-		{rising, sequence(0, 1, n), make([]int, n-1), n * (n + 1) / 2},
-		{sample.Reversed(rising), sequence(n-1, -1, n), make([]int, n-1), n * (n + 1) / 2},
-		{strings.Repeat("a", n), sequence(n-1, -1, n), sequence(1, 1, n-1), n},
-		{strings.Repeat("a", n-1) + "b", sequence(0, 1, n), sequence(n-2, -1, n-1), 2*n - 1},
-		{"b" + strings.Repeat("a", n-1), sequence(n-1, -1, n), append(sequence(1, 1, n-2), 0), 2*n - 1},
+		{rising, sample.Sequence(0, 1, n), make([]int, n-1), n * (n + 1) / 2},
+		{sample.Reversed(rising), sample.Sequence(n-1, -1, n), make([]int, n-1), n * (n + 1) / 2},
+		{strings.Repeat("a", n), sample.Sequence(n-1, -1, n), sample.Sequence(1, 1, n-1), n},
+		{strings.Repeat("a", n-1) + "b", sample.Sequence(0, 1, n), sample.Sequence(n-2, -1, n-1), 2*n - 1},
+		{"b" + strings.Repeat("a", n-1), sample.Sequence(n-1, -1, n), append(sample.Sequence(1, 1, n-2), 0), 2*n - 1},
 		{
 			strings.Repeat("ab", n/2),
-			slices.Concat(sequence(n-2, -2, n/2), sequence(n-1, -2, n/2)),
-			slices.Concat(sequence(2, 2, n/2-1), []int{0}, sequence(1, 2, n/2-1)),
+			slices.Concat(sample.Sequence(n-2, -2, n/2), sample.Sequence(n-1, -2, n/2)),
+			slices.Concat(sample.Sequence(2, 2, n/2-1), []int{0}, sample.Sequence(1, 2, n/2-1)),
 			2*n - 1,
 		},
 	} {

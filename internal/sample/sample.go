@@ -1,9 +1,10 @@
-// Package sample lists and makes strings, and lists of them, for the tests of the other
-// packages.
+// Package sample lists and makes strings, numbers, and lists of them, for the tests of the
+// other packages.
 package sample
 
 import (
 	"iter"
+	"math"
 	"slices"
 	"strings"
 
@@ -25,6 +26,50 @@ func Lists[E any](elements []E, n int) [][]E {
 		begin = end
 	}
 	return all
+}
+
+// Orders returns the elements of the list in all orders.
+func Orders[E any](list []E) [][]E {
+	if len(list) == 0 {
+		return [][]E{nil}
+	}
+	var all [][]E
+	for _, rest := range Orders(list[1:]) {
+		for i := range len(list) {
+			all = append(all, slices.Concat(rest[:i], list[:1], rest[i:]))
+		}
+	}
+	return all
+}
+
+// Sequence returns n numbers from first on, each larger than the one before by step.
+func Sequence(first, step, n int) []int {
+	var l []int
+	for i := range n {
+		l = append(l, first+i*step)
+	}
+	return l
+}
+
+// Outside returns numbers that are smaller than least or greater than greatest.
+func Outside(least, greatest int) []int {
+	return []int{
+		math.MinInt, math.MinInt + 1, -1 << 32, math.MinInt32, least - greatest - 1, least - 2, least - 1,
+		greatest + 1, greatest + 2, 2*greatest + 1, math.MaxInt32, 1 << 32, 1<<32 + 1, math.MaxInt - 1, math.MaxInt,
+	}
+}
+
+// Replaced yields the list with each of the numbers in each place of one of its own.
+func Replaced(l, numbers []int) iter.Seq[[]int] {
+	return func(yield func([]int) bool) {
+		for i := range l {
+			for _, number := range numbers {
+				if !yield(slices.Concat(l[:i], []int{number}, l[i+1:])) {
+					return
+				}
+			}
+		}
+	}
 }
 
 // Strings returns all strings of at most n bytes over the bytes of the alphabet, short

@@ -1,6 +1,7 @@
 package sample
 
 import (
+	"math"
 	"slices"
 	"strings"
 	"testing"
@@ -39,6 +40,76 @@ func TestListsShareNoMemory(t *testing.T) {
 		}
 		list = append(list, 0)
 		clear(list)
+	}
+}
+
+func TestOrders(t *testing.T) {
+	for _, c := range []struct {
+		list []string
+		want [][]string
+	}{
+		{nil, [][]string{{}}},
+		{[]string{"a"}, [][]string{{"a"}}},
+		{[]string{"a", "b"}, [][]string{{"a", "b"}, {"b", "a"}}},
+		{[]string{"a", "a"}, [][]string{{"a", "a"}, {"a", "a"}}},
+		{[]string{"a", "b", "c"}, [][]string{
+			{"a", "b", "c"}, {"b", "a", "c"}, {"b", "c", "a"}, {"a", "c", "b"}, {"c", "a", "b"}, {"c", "b", "a"},
+		}},
+	} {
+		if got := Orders(c.list); !slices.EqualFunc(got, c.want, slices.Equal) {
+			t.Errorf("Orders(%q) = %q, want %q", c.list, got, c.want)
+		}
+	}
+	if got := len(Orders([]int{1, 2, 3, 4, 5})); got != 1*2*3*4*5 {
+		t.Errorf("%d orders of 5 elements", got)
+	}
+}
+
+func TestSequence(t *testing.T) {
+	for _, c := range []struct {
+		first, step, n int
+		want           []int
+	}{
+		{3, 1, 0, nil}, {3, 1, 1, []int{3}}, {0, 1, 3, []int{0, 1, 2}}, {5, -2, 4, []int{5, 3, 1, -1}}, {7, 0, 2, []int{7, 7}},
+	} {
+		if got := Sequence(c.first, c.step, c.n); !slices.Equal(got, c.want) {
+			t.Errorf("Sequence(%d, %d, %d) = %v, want %v", c.first, c.step, c.n, got, c.want)
+		}
+	}
+}
+
+func TestOutside(t *testing.T) {
+	for _, c := range [][2]int{{0, 0}, {0, 1}, {1, 12}, {0, 255}, {1, 1_000}} {
+		least, greatest := c[0], c[1]
+		all := Outside(least, greatest)
+		for _, number := range all {
+			if number >= least && number <= greatest {
+				t.Errorf("%d is not outside %d to %d", number, least, greatest)
+			}
+		}
+		for _, want := range []int{math.MinInt, least - 1, greatest + 1, math.MaxInt} {
+			if !slices.Contains(all, want) {
+				t.Errorf("outside %d to %d lacks %d", least, greatest, want)
+			}
+		}
+	}
+}
+
+func TestReplaced(t *testing.T) {
+	l := []int{1, 2, 3}
+	var got [][]int
+	for replaced := range Replaced(l, []int{-1, 2}) {
+		got = append(got, replaced)
+		if len(got) == 5 {
+			break
+		}
+	}
+	want := [][]int{{-1, 2, 3}, {2, 2, 3}, {1, -1, 3}, {1, 2, 3}, {1, 2, -1}}
+	if !slices.EqualFunc(got, want, slices.Equal) || !slices.Equal(l, []int{1, 2, 3}) {
+		t.Errorf("Replaced yields %v, want %v, and the list has become %v", got, want, l)
+	}
+	for replaced := range Replaced(nil, l) {
+		t.Errorf("Replaced yields %v, want nothing", replaced)
 	}
 }
 
