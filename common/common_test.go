@@ -475,11 +475,11 @@ func compareTooLong(t *testing.T, a, b string) {
 
 func TestTooLong(t *testing.T) {
 	short := []string{"", "a", "ab", sample.Repeated('a', api.MaxLen)}
-	for long, s := range sample.Pairs(sample.TooLong(), short) {
+	for long, s := range sample.Pairs(sample.TooLong(api.MaxLen), short) {
 		compareTooLong(t, long, s)
 		compareTooLong(t, s, long)
 	}
-	for a, b := range sample.Pairs(sample.TooLong(), sample.TooLong()) {
+	for a, b := range sample.Pairs(sample.TooLong(api.MaxLen), sample.TooLong(api.MaxLen)) {
 		compareTooLong(t, a, b)
 	}
 }
@@ -503,7 +503,7 @@ func resultOf(a, b string) result {
 // The arguments stay as they are, whether the calls succeed or not, and the same calls
 // have the same results.
 func TestArgumentsStay(t *testing.T) {
-	all := append(sample.TooLong(), "", "abab", "baba", "\x00\xff", sample.Repeated('a', api.MaxLen))
+	all := append(sample.TooLong(api.MaxLen), "", "abab", "baba", "\x00\xff", sample.Repeated('a', api.MaxLen))
 	before := make([]string, len(all))
 	for i, s := range all {
 		before[i] = strings.Clone(s)

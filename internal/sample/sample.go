@@ -115,15 +115,15 @@ func Repeated(sign byte, n int) string {
 	return strings.Repeat(string([]byte{sign}), n)
 }
 
-// TooLong returns strings of more than MaxLen bytes.
-func TooLong() []string {
+// TooLong returns strings of more than most bytes.
+func TooLong(most int) []string {
 	return []string{
-		Repeated('a', api.MaxLen+1),
-		Repeated('a', api.MaxLen) + "b",
-		strings.Repeat("ab", api.MaxLen),
-		strings.Repeat("é", api.MaxLen/2+1), // fewer runes than MaxLen, but more bytes
-		Repeated(0, api.MaxLen+1),
-		Repeated(255, api.MaxLen+1),
+		Repeated('a', most+1),
+		Repeated('a', most) + "b",
+		strings.Repeat("ab", most),
+		strings.Repeat("é", most/2+1), // fewer runes than most, but more bytes
+		Repeated(0, most+1),
+		Repeated(255, most+1),
 		Repeated(0, 100_000),
 	}
 }

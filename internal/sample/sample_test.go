@@ -189,15 +189,17 @@ func TestRepeated(t *testing.T) {
 }
 
 func TestTooLong(t *testing.T) {
-	all := TooLong()
-	for i, s := range all {
-		if len(s) <= api.MaxLen || slices.Contains(all[:i], s) {
-			t.Errorf("%d bytes, or not for the first time", len(s))
+	for _, most := range []int{2, 3, api.MaxLen, api.MaxMorse} {
+		all := TooLong(most)
+		for i, s := range all {
+			if len(s) <= most || slices.Contains(all[:i], s) {
+				t.Errorf("%d bytes, at most %d are not too long, or not for the first time", len(s), most)
+			}
 		}
-	}
-	shortest := slices.MinFunc(all, func(s, t string) int { return len(s) - len(t) })
-	if len(shortest) != api.MaxLen+1 {
-		t.Errorf("at least %d bytes, want one more than MaxLen", len(shortest))
+		shortest := slices.MinFunc(all, func(s, t string) int { return len(s) - len(t) })
+		if len(shortest) != most+1 {
+			t.Errorf("at least %d bytes, want one more than %d", len(shortest), most)
+		}
 	}
 }
 
