@@ -3,6 +3,7 @@ package regex
 import (
 	"errors"
 	"maps"
+	"reflect"
 	"slices"
 	"strings"
 	"testing"
@@ -85,8 +86,8 @@ func signsByDefinition(p string) (string, int) {
 	return letters, many
 }
 
-// comparePattern checks the three functions on a pattern that the empty string matches
-// or not.
+// comparePattern checks the four functions on a pattern that the empty string matches or
+// not.
 func comparePattern(t *testing.T, p string, want bool) {
 	t.Helper()
 	if err := Check(p); err != nil {
@@ -97,6 +98,9 @@ func comparePattern(t *testing.T, p string, want bool) {
 	}
 	letters, many := signsByDefinition(p)
 	compareSigns(t, p, letters, many)
+	if whole, err := Parse(p); err != nil || whole.String() != "("+p+")" || whole.Null() != want {
+		t.Fatalf("Parse(%q) = %v, %v", p, whole, err)
+	}
 }
 
 func compareSigns(t *testing.T, p, wantLetters string, wantMany int) {
@@ -107,7 +111,7 @@ func compareSigns(t *testing.T, p, wantLetters string, wantMany int) {
 	}
 }
 
-// compareError checks the three functions on a string that is no pattern or too long.
+// compareError checks the four functions on a string that is no pattern or too long.
 func compareError(t *testing.T, s string, want error) {
 	t.Helper()
 	if err := Check(s); !errors.Is(err, want) {
@@ -118,6 +122,9 @@ func compareError(t *testing.T, s string, want error) {
 	}
 	if letters, many, err := Signs(s); letters != "" || many != 0 || !errors.Is(err, want) {
 		t.Fatalf("Signs(%q) = %q, %d, %v, want nothing, %v", s, letters, many, err, want)
+	}
+	if whole, err := Parse(s); whole != nil || !errors.Is(err, want) {
+		t.Fatalf("Parse(%q) = %v, %v, want nothing, %v", s, whole, err, want)
 	}
 }
 
@@ -198,6 +205,39 @@ func TestSignsWrittenOut(t *testing.T) {
 		{"|z|y|y|a|z|a", "ayz", 6},
 	} {
 		compareSigns(t, c.p, c.letters, c.many)
+	}
+}
+
+func TestParseWrittenOut(t *testing.T) {
+	a, b, c := Letter('a'), Letter('b'), Letter('c')
+	for _, want := range []struct {
+		p     string
+		whole Choice
+	}{
+		{"", Choice{nil}},
+		{"|", Choice{nil, nil}},
+		{"a", Choice{{a}}},
+		{"z", Choice{{Letter('z')}}},
+		{"abc", Choice{{a, b, c}}},
+		{"a|bc||", Choice{{a}, {b, c}, nil, nil}},
+		{"()", Choice{{Choice{nil}}}},
+		{"(a)", Choice{{Choice{{a}}}}},
+		{"((a|)b)", Choice{{Choice{{Choice{{a}, nil}, b}}}}},
+		{"a(b|c)", Choice{{a, Choice{{b}, {c}}}}},
+		{"a|(b|c)", Choice{{a}, {Choice{{b}, {c}}}}},
+
+		{"ab*", Choice{{a, Starred{b}}}}, // a star belongs to the item ahead of it
+		{"a*|b", Choice{{Starred{a}}, {b}}},
+		{"(ab)*c", Choice{{Starred{Choice{{a, b}}}, c}}},
+		{"a**", Choice{{Starred{Starred{a}}}}},
+		{"()*", Choice{{Starred{Choice{nil}}}}},
+		{"(a|b)*a", Choice{{Starred{Choice{{a}, {b}}}, a}}},
+		{"(a*)*b*", Choice{{Starred{Choice{{Starred{a}}}}, Starred{b}}}},
+	} {
+		whole, err := Parse(want.p)
+		if !reflect.DeepEqual(whole, want.whole) || err != nil {
+			t.Fatalf("Parse(%q) = %#v, %v, want %#v", want.p, whole, err, want.whole)
+		}
 	}
 }
 
